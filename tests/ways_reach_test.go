@@ -341,9 +341,4 @@ func TestReachOfAsManyRoundsAsMayBe(t *testing.T) {
 	holdReach(t, "far, one round less", ring(1000), spot(0, 0, 1), impl.MaxFar, spot(0, 1000, 1))
 	holdReach(t, "far, and a round too many", ring(999), spot(0, 0, 1), impl.MaxFar)
 	holdReach(t, "far, not yet a round too many", ring(999), spot(0, 0, 1), 999999, spot(0, 999, 1))
-	// Drives that end at a buffer go over no joint more: they are no round.
-	n := laid([]impl.Piece{piece("a", 5), piece("b", 1)}, fork("w", end(0, 1), end(0, 0), end(1, 0)), buffer(end(1, 1)))
-	holdReach(t, "others end at buffers all the time", n, spot(0, 0, 1), 5005, spot(0, 5, 1))
-	holdReach(t, "both, in round MaxOver", n, spot(0, 0, 1), 5001, spot(0, 1, 1), spot(1, 1, 1))
-	holdReach(t, "behind round MaxOver", n, spot(0, 0, 1), 5006)
 }
